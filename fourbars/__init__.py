@@ -1,0 +1,1 @@
+"""Four bars and how they move."""
