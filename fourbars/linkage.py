@@ -26,6 +26,43 @@ def full(g, a, c, r, pin):
     return [0]
 
 
+def range_of(g, a, c, r, pin):
+    """Answer [0, 4], the least and the greatest cosine; or [-1], [-2]."""
+    lengths = [g, a, c, r]
+    if not are_lengths(lengths) or not is_pin(pin):
+        return [-1]
+    if kind_of(lengths) == 0:
+        return [-2]
+    bars = bars_from(lengths, pin)
+    nearest = max(abs(bars[0] - bars[1]), abs(bars[2] - bars[3]))
+    farthest = min(bars[0] + bars[1], bars[2] + bars[3])
+    least = cosine(bars[0], bars[1], farthest)
+    greatest = cosine(bars[0], bars[1], nearest)
+    return [0, 4] + least + greatest
+
+
+def line(g, a, c, r, pin, folded, other):
+    """Answer [1, 2], the cosine at the other pin; or [0, 0]: there's none.
+
+    A refusal is [-1], [-2], or [-5]: every angle can be at the other pin.
+    """
+    lengths = [g, a, c, r]
+    if not are_lengths(lengths) or not is_choice(folded):
+        return [-1]
+    if not is_pin(pin) or not is_pin(other) or other == pin:
+        return [-1]
+    if kind_of(lengths) == 0:
+        return [-2]
+    bars = bars_from(lengths, pin)
+    way = way_in_line(bars[0], bars[1], folded)
+    if not spans(bars[2], bars[3], abs(way)):
+        return [0, 0]
+    opposite = abs(other - pin) == 2
+    if way == 0 and not opposite:
+        return [-5]
+    return [1, 2] + cosine_in_line(bars, folded, (other - pin) % 4)
+
+
 def are_lengths(lengths):
     """Tell whether each of the numbers may be a bar's length."""
     return all([1 <= length <= 999 for length in lengths])
@@ -34,6 +71,11 @@ def are_lengths(lengths):
 def is_pin(pin):
     """Tell whether there is a pin of this number."""
     return 0 <= pin <= 3
+
+
+def is_choice(number):
+    """Tell whether the number may stand for one of two choices."""
+    return 0 <= number <= 1
 
 
 def kind_of(lengths):
@@ -54,13 +96,74 @@ def kind_of(lengths):
     return 2 + lengths.index(shortest)
 
 
+def bars_from(lengths, pin):
+    """Answer the two bars at the pin, then the two others, round the figure."""
+    return lengths[pin:] + lengths[:pin]
+
+
+def spans(one, another, way):
+    """Tell whether two bars that meet can have their far ends so far apart."""
+    return abs(one - another) <= way <= one + another
+
+
 def turns_fully(lengths, pin):
     """Tell whether the two bars at the pin can be at every angle.
 
     They hold their far ends at every distance from folded to stretched, and
     the other two bars must span each of them, the least and the greatest too.
     """
-    bars = lengths[pin:] + lengths[:pin]
-    folded = abs(bars[0] - bars[1])
-    stretched = bars[0] + bars[1]
-    return abs(bars[2] - bars[3]) <= folded and stretched <= bars[2] + bars[3]
+    bars = bars_from(lengths, pin)
+    folded = way_in_line(bars[0], bars[1], 1)
+    stretched = way_in_line(bars[0], bars[1], 0)
+    return spans(bars[2], bars[3], abs(folded)) and spans(bars[2], bars[3], stretched)
+
+
+def way_in_line(bar, another, folded):
+    """Answer the way from the bar's far end to the other's, both in line.
+
+    It is above 0 along the bar towards the pin where they meet, and below 0
+    the other way, where the other bar, folded, is the longer one.
+    """
+    if folded == 1:
+        return bar - another
+    return bar + another
+
+
+def cosine_in_line(bars, folded, step):
+    """Answer the cosine so many pins onward, the first two bars in line.
+
+    The two other bars make a triangle with the way between the far ends. At
+    either end of it the way's sign tells where the bar in line points.
+    """
+    if step == 1:
+        return cosine(way_in_line(bars[1], bars[0], folded), bars[2], bars[3])
+    if step == 2:
+        return cosine(bars[2], bars[3], way_in_line(bars[0], bars[1], folded))
+    return cosine(way_in_line(bars[0], bars[1], folded), bars[3], bars[2])
+
+
+def cosine(one, another, across):
+    """Answer the cosine between two sides of a triangle, told the third.
+
+    A first side below 0 leads the other way: the angle beside it counts.
+    """
+    return fraction(one * one + another * another - across * across, 2 * one * another)
+
+
+def fraction(above, below):
+    """Answer the fraction's two numbers in lowest terms, the second above 0."""
+    common = common_part(abs(above), abs(below))
+    if below < 0:
+        common = -common
+    return [above // common, below // common]
+
+
+def common_part(one, another):
+    """Answer the greatest whole number that goes into both."""
+    left = one
+    right = another
+    while right != 0:
+        rest = left % right
+        left = right
+        right = rest
+    return left

@@ -14,12 +14,27 @@ from fourbars import linkage
 ARGUMENTS = {
     "kind": ["g", "a", "c", "r"],
     "full": ["g", "a", "c", "r", "pin"],
+    "range_of": ["g", "a", "c", "r", "pin"],
+    "line": ["g", "a", "c", "r", "pin", "folded", "other"],
 }
 # Of each call: rows that are answered, and rows that are refused.
 CALLS = {
     "kind": [(10, 2, 3, 4), (9, 2, 3, 4), (4, 1, 3, 5), (1, 1, 1, 1), (0, 1, 1, 1), (9223372036854775807,) * 4],
     "full": [(4, 1, 3, 5, 0), (4, 1, 3, 5, 2), (10, 2, 3, 4, 0), (4, 1, 3, 5, 4), (9223372036854775807,) * 5],
+    "range_of": [(4, 1, 3, 5, 0), (4, 1, 3, 5, 2), (10, 2, 3, 4, 0), (4, 1, 3, 5, 4), (9223372036854775807,) * 5],
+    "line": [
+        (4, 1, 3, 5, 1, 0, 0), (4, 1, 3, 5, 2, 0, 1), (1, 1, 2, 2, 0, 1, 1), (10, 2, 3, 4, 0, 0, 1),
+        (4, 1, 3, 5, 0, 0, 0), (9223372036854775807,) * 7,
+    ],
 }
+# Of each call: how many numbers come with the one that is answered first.
+TOLD_WITH = {
+    "kind": {number: 0 for number in range(8)},
+    "full": {0: 0, 1: 0},
+    "range_of": {0: 4},
+    "line": {0: 0, 1: 2},
+}
+LISTED = ("range_of", "line")
 BUILT_IN = set(
     "len range enumerate zip min max sum abs sorted reversed int str bool list tuple dict set frozenset isinstance"
     " ord repr any all divmod Exception ValueError TypeError KeyError IndexError LookupError ZeroDivisionError"
@@ -65,12 +80,24 @@ class Answers(unittest.TestCase):
             for parameter in parameters.values():
                 self.assertIs(parameter.default, inspect.Parameter.empty)
 
-    def test_one_list_of_one_whole_number(self):
+    def test_one_list_of_whole_numbers(self):
         for function, row in every_call():
             answer = function(*row)
             self.assertIs(type(answer), list, row)
-            self.assertEqual(len(answer), 1, row)
-            self.assertIs(type(answer[0]), int, row)
+            self.assertEqual({type(number) for number in answer}, {int}, row)
+
+    def test_how_many_numbers(self):
+        for function, row in every_call():
+            name = function.__name__
+            first, *rest = function(*row)
+            if first < 0:
+                self.assertEqual(rest, [], row)
+            elif name in LISTED:
+                self.assertEqual(rest[0], TOLD_WITH[name][first], row)
+                self.assertEqual(len(rest[1:]), rest[0], row)
+            else:
+                self.assertIn(first, TOLD_WITH[name], row)
+                self.assertEqual(rest, [], row)
 
     def test_nothing_kept(self):
         before = [function(*row) for function, row in every_call()]

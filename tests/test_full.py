@@ -127,43 +127,6 @@ class Edges(unittest.TestCase):
 
 
 class Wrong(unittest.TestCase):
-    def test_each_length(self):
-        for wrong in (0, 1000, MOST):
-            for bar in range(4):
-                lengths = [5, 6, 7, 8]
-                lengths[bar] = wrong
-                with self.subTest(lengths=lengths):
-                    self.assertEqual(fulls(*lengths), [[-1]] * 4)
-
-    def test_pin(self):
-        for pin in (4, 5, MOST):
-            with self.subTest(pin=pin):
-                self.assertEqual(full(4, 1, 3, 5, pin), [-1])
-        self.assertEqual(full(4, 1, 3, 5, 3), [0])
-
-    def test_below_the_told_range(self):
-        for bar in range(4):
-            lengths = [5, 6, 7, 8]
-            lengths[bar] = -1
-            self.assertEqual(fulls(*lengths), [[-1]] * 4)
-        self.assertEqual(full(4, 1, 3, 5, -1), [-1])
-
-    def test_two_lengths(self):
-        for first, second in itertools.combinations(range(4), 2):
-            for one, other in itertools.product((0, 1000, MOST), repeat=2):
-                lengths = [5, 6, 7, 8]
-                lengths[first] = one
-                lengths[second] = other
-                with self.subTest(lengths=lengths):
-                    self.assertEqual(fulls(*lengths), [[-1]] * 4)
-
-    def test_a_length_and_the_pin(self):
-        for wrong, pin, bar in itertools.product((0, 1000, MOST), (4, MOST), range(4)):
-            lengths = [5, 6, 7, 8]
-            lengths[bar] = wrong
-            with self.subTest(lengths=lengths, pin=pin):
-                self.assertEqual(full(*lengths, pin), [-1])
-
     def test_wrong_ahead_of_no_figure(self):
         self.assertEqual(full(999, 1, 1, 1, 3), [-2])
         self.assertEqual(full(999, 1, 1, 1, 4), [-1])
