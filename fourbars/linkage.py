@@ -63,6 +63,36 @@ def line(g, a, c, r, pin, folded, other):
     return [1, 2] + cosine_in_line(bars, folded, (other - pin) % 4)
 
 
+def circuits(g, a, c, r):
+    """Answer how many circuits there are, [0] to [2]; or [-1]."""
+    lengths = [g, a, c, r]
+    if not are_lengths(lengths):
+        return [-1]
+    number = kind_of(lengths)
+    if number == 0:
+        return [0]
+    if number in (2, 3, 4, 5):
+        return [2]
+    return [1]
+
+
+def circuit(g, a, c, r, p, q, s):
+    """Answer which circuit the figure is of, [0] or [1]; or [-1], [-3]."""
+    lengths = [g, a, c, r]
+    place = [p, q]
+    if not are_lengths(lengths) or not is_place(place) or not is_choice(s):
+        return [-1]
+    if not closes(lengths, place):
+        return [-3]
+    number = kind_of(lengths)
+    if number in (2, 3):
+        return [s]
+    # Of kinds 4 and 5, no figure has C on the ground's line.
+    if number in (4, 5) and p * q < 0:
+        return [1]
+    return [0]
+
+
 def are_lengths(lengths):
     """Tell whether each of the numbers may be a bar's length."""
     return all([1 <= length <= 999 for length in lengths])
@@ -76,6 +106,11 @@ def is_pin(pin):
 def is_choice(number):
     """Tell whether the number may stand for one of two choices."""
     return 0 <= number <= 1
+
+
+def is_place(place):
+    """Tell whether the two numbers tell a place of the crank."""
+    return all([-99 <= number <= 99 for number in place]) and place != [0, 0]
 
 
 def kind_of(lengths):
@@ -127,6 +162,43 @@ def way_in_line(bar, another, folded):
     if folded == 1:
         return bar - another
     return bar + another
+
+
+def closes(lengths, place):
+    """Tell whether there's a figure at the crank's place."""
+    return meets(lengths, place) and not is_at_b(lengths, place)
+
+
+def meets(lengths, place):
+    """Tell whether the circles about C and B meet, or are one circle."""
+    squares = squares_at(lengths, place)
+    return squares[0] <= squares[1] <= squares[2]
+
+
+def is_at_b(lengths, place):
+    """Tell whether C is at B."""
+    return lengths[0] == lengths[1] and place[0] == 0
+
+
+def squares_at(lengths, place):
+    """Answer the squares of three ways: C to B with the coupler and the rocker
+    folded, as it is at the place, and with these stretched.
+
+    Each is told p p + q q times, for so often all three are whole.
+    """
+    along = place[1] * place[1]
+    against = place[0] * place[0]
+    folded = square(way_in_line(lengths[2], lengths[3], 1))
+    stretched = square(way_in_line(lengths[2], lengths[3], 0))
+    nearest = square(way_in_line(lengths[0], lengths[1], 1))
+    farthest = square(way_in_line(lengths[0], lengths[1], 0))
+    way = nearest * along + farthest * against
+    return [folded * (along + against), way, stretched * (along + against)]
+
+
+def square(number):
+    """Answer the number times itself."""
+    return number * number
 
 
 def cosine_in_line(bars, folded, step):

@@ -16,6 +16,8 @@ ARGUMENTS = {
     "full": ["g", "a", "c", "r", "pin"],
     "range_of": ["g", "a", "c", "r", "pin"],
     "line": ["g", "a", "c", "r", "pin", "folded", "other"],
+    "circuits": ["g", "a", "c", "r"],
+    "circuit": ["g", "a", "c", "r", "p", "q", "s"],
 }
 # Of each call: rows that are answered, and rows that are refused.
 CALLS = {
@@ -26,6 +28,11 @@ CALLS = {
         (4, 1, 3, 5, 1, 0, 0), (4, 1, 3, 5, 2, 0, 1), (1, 1, 2, 2, 0, 1, 1), (10, 2, 3, 4, 0, 0, 1),
         (4, 1, 3, 5, 0, 0, 0), (9223372036854775807,) * 7,
     ],
+    "circuits": [(10, 2, 3, 4), (9, 2, 3, 4), (4, 1, 3, 5), (0, 1, 1, 1), (9223372036854775807,) * 4],
+    "circuit": [
+        (4, 1, 3, 5, 1, 2, 1), (4, 1, 3, 5, -1, 2, 0), (4, 3, 1, 4, 1, 1, 0), (4, 3, 1, 4, 99, -99, 0),
+        (2, 2, 3, 3, 0, 1, 0), (10, 2, 3, 4, 1, 1, 1), (4, 1, 3, 5, 0, 0, 0), (9223372036854775807,) * 7,
+    ],
 }
 # Of each call: how many numbers come with the one that is answered first.
 TOLD_WITH = {
@@ -33,6 +40,8 @@ TOLD_WITH = {
     "full": {0: 0, 1: 0},
     "range_of": {0: 4},
     "line": {0: 0, 1: 2},
+    "circuits": {0: 0, 1: 0, 2: 0},
+    "circuit": {0: 0, 1: 0},
 }
 LISTED = ("range_of", "line")
 BUILT_IN = set(

@@ -9,12 +9,15 @@ MOST = 9223372036854775807
 LENGTHS = {bar: (0, 1000, 1001, MOST, -1) for bar in "gacr"}
 PIN = (4, 5, MOST, -1)
 CHOICE = (2, 3, MOST, -1)
+PLACE = (100, -100, MOST, -MOST)
 # Of each call: the wrong values of each argument, in the arguments' order.
 WRONG = {
     "kind": LENGTHS,
     "full": {**LENGTHS, "pin": PIN},
     "range_of": {**LENGTHS, "pin": PIN},
     "line": {**LENGTHS, "pin": PIN, "folded": CHOICE, "other": PIN},
+    "circuits": LENGTHS,
+    "circuit": {**LENGTHS, "p": PLACE, "q": PLACE, "s": CHOICE},
 }
 # Of each call: rows that are not refused with -1, and what they are answered.
 TAKEN = {
@@ -26,6 +29,13 @@ TAKEN = {
         (4, 1, 3, 5, 3, 1, 0): [0, 0],
         (999, 1, 1, 1, 0, 1, 3): [-2],
         (2, 2, 3, 3, 0, 1, 3): [-5],
+    },
+    "circuits": {(4, 1, 3, 5): [2], (1, 1, 999, 999): [1], (999, 1, 1, 1): [0]},
+    "circuit": {
+        (4, 1, 3, 5, 99, -99, 1): [1],
+        (4, 3, 1, 4, -99, 99, 0): [1],
+        (2, 2, 3, 3, 0, 1, 1): [-3],
+        (999, 1, 1, 1, 1, 0, 0): [-3],
     },
 }
 
@@ -77,6 +87,25 @@ class OtherIsThePin(unittest.TestCase):
             self.assertEqual(linkage.line(4, 1, 3, 0, pin, 1, pin), [-1])
         self.assertEqual(linkage.line(4, 1, 3, 5, 4, 0, 4), [-1])
         self.assertEqual(linkage.line(4, 1, 3, 5, MOST, 1, MOST), [-1])
+
+
+class NoPlace(unittest.TestCase):
+    """Both numbers of the crank's place are 0."""
+
+    def test_alone(self):
+        for lengths in ((4, 1, 3, 5), (9, 2, 3, 4), (999, 1, 1, 1), (2, 2, 3, 3), (1, 1, 1, 1)):
+            for s in (0, 1):
+                self.assertEqual(linkage.circuit(*lengths, 0, 0, s), [-1], (lengths, s))
+
+    def test_with_another_wrong(self):
+        self.assertEqual(linkage.circuit(4, 1, 3, 5, 0, 0, 2), [-1])
+        self.assertEqual(linkage.circuit(4, 1, 3, 0, 0, 0, 1), [-1])
+        self.assertEqual(linkage.circuit(4, MOST, 3, 5, 0, 0, MOST), [-1])
+
+    def test_one_of_both(self):
+        for number in (1, 99, -1, -99):
+            self.assertEqual(linkage.circuit(4, 1, 3, 5, 0, number, 1), [1], number)
+            self.assertEqual(linkage.circuit(4, 1, 3, 5, number, 0, 1), [1], number)
 
 
 if __name__ == "__main__":
