@@ -5,6 +5,9 @@ that pin k is where bar k and the bar behind it (behind the last: the first)
 meet.
 """
 
+# The crank's places where C is nearest to B and where it's farthest from it.
+NEAREST_AND_FARTHEST = ((0, 1), (1, 0))
+
 
 def kind(g, a, c, r):
     """Answer how the four lengths can move: [0] to [7], or [-1]."""
@@ -93,6 +96,54 @@ def circuit(g, a, c, r, p, q, s):
     return [0]
 
 
+def drive(g, a, c, r, p, q, s, left, p2, q2):
+    """Answer the side on which D is at the end, [0] or [1].
+
+    A refusal is [-1], [-3]: no figure at first, [-4]: none on the way, or
+    [-5]: D may go to either side.
+    """
+    lengths = [g, a, c, r]
+    start = [p, q]
+    end = [p2, q2]
+    if not are_lengths(lengths) or not is_choice(s) or not is_choice(left):
+        return [-1]
+    if not is_place(start) or not is_place(end):
+        return [-1]
+    if not closes(lengths, start):
+        return [-3]
+    # Between two of these, start and end, C only comes nearer to B or only goes
+    # farther from it: so what holds at all of them tells of the whole way.
+    passed = [place for place in NEAREST_AND_FARTHEST if passes(start, place, end, left)]
+    if not meets(lengths, end) or not all([meets(lengths, place) for place in passed]):
+        return [-4]
+    if is_at_b(lengths, end) or any([touches(lengths, place) for place in passed]):
+        return [-5]
+    if touches(lengths, end):
+        return [0]
+    return [s]
+
+
+def swing(g, a, c, r, which, m):
+    """Answer [0, 1] and how many whole 2^m-ths of a turn; or [-1], [-2]."""
+    lengths = [g, a, c, r]
+    if not are_lengths(lengths) or not is_choice(which) or not 1 <= m <= 8:
+        return [-1]
+    if kind_of(lengths) != 3:
+        return [-2]
+    # So far is D from A at the two extremes, where coupler and crank are in line.
+    folded = way_in_line(c, a, 1)
+    stretched = way_in_line(c, a, 0)
+    if which == 0:
+        first = [0] + cosine(g, r, folded)
+        last = [0] + cosine(g, r, stretched)
+    else:
+        first = [0] + cosine(g, stretched, r)
+        # Folded on the coupler, the longer one, the crank points away from D.
+        last = [1] + cosine(g, folded, r)
+    # A 2^m-th of a turn, taken 2^(m - 1) times, is half a turn.
+    return [0, 1, half_turns_between(doubled(first, m - 1), doubled(last, m - 1))]
+
+
 def are_lengths(lengths):
     """Tell whether each of the numbers may be a bar's length."""
     return all([1 <= length <= 999 for length in lengths])
@@ -175,6 +226,12 @@ def meets(lengths, place):
     return squares[0] <= squares[1] <= squares[2]
 
 
+def touches(lengths, place):
+    """Tell whether the circles about C and B touch, or are one circle."""
+    squares = squares_at(lengths, place)
+    return squares[1] == squares[0] or squares[1] == squares[2]
+
+
 def is_at_b(lengths, place):
     """Tell whether C is at B."""
     return lengths[0] == lengths[1] and place[0] == 0
@@ -199,6 +256,73 @@ def squares_at(lengths, place):
 def square(number):
     """Answer the number times itself."""
     return number * number
+
+
+def passes(start, place, end, left):
+    """Tell whether the crank, behind start and before end, comes by the place.
+
+    Where it does so to the left, the half angle rises from each of the three
+    to the next but once round, to the right it falls but once. A place's other
+    numbers change two of the signs, or none.
+    """
+    rises = half_angle_rise(start, place) * half_angle_rise(place, end) * half_angle_rise(end, start)
+    if left == 1:
+        return rises < 0
+    return rises > 0
+
+
+def half_angle_rise(place, another):
+    """Answer a number above 0 where half the crank's angle is the greater one
+    at the other place, 0 where it's the same, both told with q above 0.
+    """
+    return another[0] * place[1] - place[0] * another[1]
+
+
+def doubled(angle, times):
+    """Answer the angle doubled so many times.
+
+    An angle is told as how many half turns it has, and the cosine of what is
+    left, below half a turn.
+    """
+    half_turns = angle[0]
+    above = angle[1]
+    below = angle[2]
+    for turn in range(times):
+        half_turns = 2 * half_turns
+        twice = 2 * square(above) - square(below)
+        if above <= 0:
+            half_turns = half_turns + 1
+            twice = -twice
+        above = twice
+        below = square(below)
+    return [half_turns, above, below]
+
+
+def half_turns_between(first, last):
+    """Answer how many whole half turns lead from the first angle to the last."""
+    # What is left of an angle is less where its cosine is greater.
+    if is_greater(last[1:], first[1:]):
+        return last[0] - first[0] - 1
+    return last[0] - first[0]
+
+
+def is_greater(fraction_one, fraction_two):
+    """Tell whether the first fraction is greater than the second.
+
+    Whole part by whole part, for multiplied across they'd have too many digits.
+    """
+    one = fraction_one
+    two = fraction_two
+    while one[0] // one[1] == two[0] // two[1]:
+        rest_one = one[0] % one[1]
+        rest_two = two[0] % two[1]
+        if rest_one == 0 or rest_two == 0:
+            return rest_one > rest_two
+        # The first rest is the greater one if, upside down, it's the less.
+        upside_down = [one[1], rest_one]
+        one = [two[1], rest_two]
+        two = upside_down
+    return one[0] // one[1] > two[0] // two[1]
 
 
 def cosine_in_line(bars, folded, step):

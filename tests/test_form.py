@@ -18,6 +18,8 @@ ARGUMENTS = {
     "line": ["g", "a", "c", "r", "pin", "folded", "other"],
     "circuits": ["g", "a", "c", "r"],
     "circuit": ["g", "a", "c", "r", "p", "q", "s"],
+    "drive": ["g", "a", "c", "r", "p", "q", "s", "left", "p2", "q2"],
+    "swing": ["g", "a", "c", "r", "which", "m"],
 }
 # Of each call: rows that are answered, and rows that are refused.
 CALLS = {
@@ -33,6 +35,15 @@ CALLS = {
         (4, 1, 3, 5, 1, 2, 1), (4, 1, 3, 5, -1, 2, 0), (4, 3, 1, 4, 1, 1, 0), (4, 3, 1, 4, 99, -99, 0),
         (2, 2, 3, 3, 0, 1, 0), (10, 2, 3, 4, 1, 1, 1), (4, 1, 3, 5, 0, 0, 0), (9223372036854775807,) * 7,
     ],
+    "drive": [
+        (4, 1, 3, 5, 1, 2, 1, 1, 2, 1), (4, 1, 3, 5, 1, 2, 0, 0, -2, 1), (4, 3, 1, 4, 1, 2, 1, 1, 1, 1),
+        (5, 3, 1, 4, 1, 1, 0, 1, 1, 2), (5, 3, 1, 4, 1, 2, 0, 1, 1, 1), (4, 1, 2, 3, 9, 1, 0, 1, -9, 1),
+        (10, 2, 3, 4, 1, 1, 1, 0, 1, 2), (4, 1, 3, 5, 1, 1, 0, 1, 0, 0), (9223372036854775807,) * 10,
+    ],
+    "swing": [
+        (4, 1, 3, 5, 0, 8), (4, 1, 3, 5, 1, 8), (4, 1, 3, 5, 0, 1), (20, 14, 51, 51, 0, 2), (1, 3, 4, 5, 0, 1),
+        (10, 2, 3, 4, 1, 1), (4, 1, 3, 5, 0, 0), (9223372036854775807,) * 6,
+    ],
 }
 # Of each call: how many numbers come with the one that is answered first.
 TOLD_WITH = {
@@ -42,8 +53,10 @@ TOLD_WITH = {
     "line": {0: 0, 1: 2},
     "circuits": {0: 0, 1: 0, 2: 0},
     "circuit": {0: 0, 1: 0},
+    "drive": {0: 0, 1: 0},
+    "swing": {0: 1},
 }
-LISTED = ("range_of", "line")
+LISTED = ("range_of", "line", "swing")
 BUILT_IN = set(
     "len range enumerate zip min max sum abs sorted reversed int str bool list tuple dict set frozenset isinstance"
     " ord repr any all divmod Exception ValueError TypeError KeyError IndexError LookupError ZeroDivisionError"

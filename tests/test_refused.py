@@ -18,6 +18,8 @@ WRONG = {
     "line": {**LENGTHS, "pin": PIN, "folded": CHOICE, "other": PIN},
     "circuits": LENGTHS,
     "circuit": {**LENGTHS, "p": PLACE, "q": PLACE, "s": CHOICE},
+    "drive": {**LENGTHS, "p": PLACE, "q": PLACE, "s": CHOICE, "left": CHOICE, "p2": PLACE, "q2": PLACE},
+    "swing": {**LENGTHS, "which": CHOICE, "m": (0, 9, 10, MOST, -1)},
 }
 # Of each call: rows that are not refused with -1, and what they are answered.
 TAKEN = {
@@ -36,6 +38,19 @@ TAKEN = {
         (4, 3, 1, 4, -99, 99, 0): [1],
         (2, 2, 3, 3, 0, 1, 1): [-3],
         (999, 1, 1, 1, 1, 0, 0): [-3],
+    },
+    "drive": {
+        (4, 1, 3, 5, 99, -99, 1, 1, -99, -99): [1],
+        (4, 3, 1, 4, -98, 99, 1, 0, -99, 99): [0],
+        (999, 1, 1, 1, 1, 1, 0, 0, 1, 2): [-3],
+        (5, 3, 1, 4, 1, 2, 0, 1, 1, 1): [-4],
+        (4, 1, 2, 3, 9, 1, 1, 1, -9, 1): [-5],
+    },
+    "swing": {
+        (4, 1, 3, 5, 0, 8): [0, 1, 20],
+        (4, 1, 3, 5, 1, 1): [0, 1, 1],
+        (1, 3, 4, 5, 0, 1): [-2],
+        (999, 1, 1, 1, 1, 8): [-2],
     },
 }
 
@@ -90,22 +105,35 @@ class OtherIsThePin(unittest.TestCase):
 
 
 class NoPlace(unittest.TestCase):
-    """Both numbers of the crank's place are 0."""
+    """Both numbers of a place of the crank are 0."""
+
+    LENGTHS = ((4, 1, 3, 5), (9, 2, 3, 4), (999, 1, 1, 1), (2, 2, 3, 3), (1, 1, 1, 1), (5, 3, 1, 4))
 
     def test_alone(self):
-        for lengths in ((4, 1, 3, 5), (9, 2, 3, 4), (999, 1, 1, 1), (2, 2, 3, 3), (1, 1, 1, 1)):
+        for lengths in self.LENGTHS:
             for s in (0, 1):
                 self.assertEqual(linkage.circuit(*lengths, 0, 0, s), [-1], (lengths, s))
+
+    def test_alone_at_first_or_in_the_end(self):
+        for lengths in self.LENGTHS:
+            for s, left in itertools.product((0, 1), (0, 1)):
+                for place in ((0, 1), (1, 0), (1, 1), (0, 0), (-1, 2)):
+                    self.assertEqual(linkage.drive(*lengths, 0, 0, s, left, *place), [-1], (lengths, place))
+                    self.assertEqual(linkage.drive(*lengths, *place, s, left, 0, 0), [-1], (lengths, place))
 
     def test_with_another_wrong(self):
         self.assertEqual(linkage.circuit(4, 1, 3, 5, 0, 0, 2), [-1])
         self.assertEqual(linkage.circuit(4, 1, 3, 0, 0, 0, 1), [-1])
         self.assertEqual(linkage.circuit(4, MOST, 3, 5, 0, 0, MOST), [-1])
+        self.assertEqual(linkage.drive(4, 1, 3, 5, 0, 0, 0, 2, 1, 1), [-1])
+        self.assertEqual(linkage.drive(4, 1, 3, 5, 1, 100, 0, 1, 0, 0), [-1])
 
     def test_one_of_both(self):
         for number in (1, 99, -1, -99):
-            self.assertEqual(linkage.circuit(4, 1, 3, 5, 0, number, 1), [1], number)
-            self.assertEqual(linkage.circuit(4, 1, 3, 5, number, 0, 1), [1], number)
+            for place in ((0, number), (number, 0)):
+                self.assertEqual(linkage.circuit(4, 1, 3, 5, *place, 1), [1], place)
+                self.assertEqual(linkage.drive(4, 1, 3, 5, *place, 1, 1, 1, 1), [1], place)
+                self.assertEqual(linkage.drive(4, 1, 3, 5, 1, 1, 1, 1, *place), [1], place)
 
 
 if __name__ == "__main__":
